@@ -23,7 +23,8 @@ func Encode(r []api.Value) (string, api.Errno) {
 	}
 	var out strings.Builder
 	for _, v := range r {
-		c, n := encodeValue(v)
+		var c cell
+		n := c.put(v)
 		out.Write(c[:n])
 	}
 	return out.String(), api.OK
@@ -48,23 +49,24 @@ func Decode(s string) ([]api.Value, api.Errno) {
 	return r, api.OK
 }
 
-// encodeValue returns the encoding of a valid value: the first n bytes of c.
-func encodeValue(v api.Value) (c cell, n int) {
+// put writes the encoding of a valid value into c, which is empty, and returns how many bytes it takes.
+// It does not return c as well: Go leaves open whether a return statement reads c ahead of a call, in the same statement, that writes into it.
+func (c *cell) put(v api.Value) int {
 	c[0] = byte(v.Kind)
 	switch v.Kind {
 	case api.Int:
 		for i := range numberBytes {
 			c[numberBytes-i] = byte(uint64(v.N) >> (8 * i))
 		}
-		return c, 1 + numberBytes
+		return 1 + numberBytes
 	case api.Bool:
 		c[1] = byte(v.N)
-		return c, 2
+		return 2
 	case api.Text:
 		c[1] = byte(len(v.S))
-		return c, 2 + copy(c[2:], v.S)
+		return 2 + copy(c[2:], v.S)
 	}
-	return c, 1
+	return 1
 }
 
 // firstSize returns how many bytes the encoding takes with which s begins, by its first bytes, or 0 if none begins so; s is not empty.
