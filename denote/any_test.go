@@ -98,7 +98,7 @@ func anyTables(r *rand.Rand) []api.Table {
 			t.Rows = append(t.Rows, row)
 		}
 		if r.Intn(20) == 0 {
-			t.Rows, t.Cols = make([][]api.Value, 300000), make([]api.Column, 100)
+			t.Rows, t.Cols = make([][]api.Value, 3000), make([]api.Column, 100)
 		}
 		l = append(l, t)
 	}
